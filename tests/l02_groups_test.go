@@ -211,8 +211,8 @@ func TestOrderOfMatrix(t *testing.T) {
 	}
 }
 
-// TestGreatestOrders takes matrices that have all orders there are up to conjugation and multiples:
-// the greatest one is 13 x 13 x 13 - 1. No order comes to MaxPeriod, and ErrLimit never occurs.
+// TestGreatestOrders takes one matrix of the size 3 with each characteristic polynomial. The greatest
+// order of all is 13 x 13 x 13 - 1: none comes to MaxPeriod, so that ErrLimit never occurs.
 func TestGreatestOrders(t *testing.T) {
 	for _, p := range primes {
 		greatest := int64(0)
