@@ -436,6 +436,13 @@ func TestIsGenerated(t *testing.T) {
 }
 
 func TestIsGeneratedErrors(t *testing.T) {
+	wantUnfitRefused(t, "IsGenerated", impl.IsGenerated)
+}
+
+// wantUnfitRefused calls a function of a list and a polynomial with such that do not fit each other, and with
+// what is no polynomial, also together with what is no list.
+func wantUnfitRefused(t *testing.T, name string, call func(list []impl.Poly, f impl.Poly) (bool, int64)) {
+	t.Helper()
 	list := splitPolys(t, 5, 2, "1x+1y 1xy")
 	unfit := []impl.Poly{
 		parsed(t, 5, 2, "1+1x+1y"), parsed(t, 5, 2, "1x+1y+1xy"), parsed(t, 5, 2, "1x11+1x12"), parsed(t, 5, 2, "1+1x12"),
@@ -443,15 +450,15 @@ func TestIsGeneratedErrors(t *testing.T) {
 		parsed(t, 7, 2, "0"), parsed(t, 5, 3, "0"), parsed(t, 5, 1, "1"), parsed(t, 2, 2, "1"), parsed(t, 7, 3, "1x+1y2"),
 	}
 	for _, f := range unfit {
-		yes, code := impl.IsGenerated(list, f)
-		wantZero(t, fmt.Sprintf("IsGenerated(.., %v)", f), !yes, code, impl.ErrRange)
-		yes, code = impl.IsGenerated(nil, f)
-		wantZero(t, fmt.Sprintf("IsGenerated(nil, %v)", f), !yes, code, impl.ErrRange)
+		yes, code := call(list, f)
+		wantZero(t, fmt.Sprintf("%s(.., %v)", name, f), !yes, code, impl.ErrRange)
+		yes, code = call(nil, f)
+		wantZero(t, fmt.Sprintf("%s(nil, %v)", name, f), !yes, code, impl.ErrRange)
 	}
 	for why, f := range badPolys() {
 		for _, of := range [][]impl.Poly{list, nil, {parsed(t, 7, 3, "1+1x")}, {{}}, slices.Repeat(list, 5)} {
-			yes, code := impl.IsGenerated(of, f)
-			wantZero(t, fmt.Sprintf("IsGenerated(%v, %s)", of, why), !yes, code, impl.ErrInvalid)
+			yes, code := call(of, f)
+			wantZero(t, fmt.Sprintf("%s(%v, %s)", name, of, why), !yes, code, impl.ErrInvalid)
 		}
 	}
 }
@@ -505,10 +512,18 @@ func generatingCalls(t *testing.T) map[string]func(list []impl.Poly) (bool, int6
 	return calls
 }
 
-// TestListErrors gives what is no list to all functions of lists: what is no polynomial is found first,
-// and what is no list before what is too great, or is not invariant.
+// TestListErrors gives what is no list to all functions of lists; only IsGenerating takes an empty one.
 func TestListErrors(t *testing.T) {
-	for name, call := range listCalls(t) {
+	wantNoListsRefused(t, listCalls(t))
+	wantEmptyRefused(t, listCalls(t))
+	wantNoListsRefused(t, generatingCalls(t))
+}
+
+// wantNoListsRefused gives what is no list to functions: what is no polynomial is found first, and what is no
+// list before what is too great, or is not invariant.
+func wantNoListsRefused(t *testing.T, calls map[string]func(list []impl.Poly) (bool, int64)) {
+	t.Helper()
+	for name, call := range calls {
 		for why, list := range noPolyLists() {
 			zero, code := call(list)
 			wantZero(t, name+" of "+why, zero, code, impl.ErrInvalid)
@@ -517,19 +532,16 @@ func TestListErrors(t *testing.T) {
 			zero, code := call(list)
 			wantZero(t, name+" of "+why, zero, code, impl.ErrRange)
 		}
+	}
+}
+
+// wantEmptyRefused gives no polynomials to functions of at least one.
+func wantEmptyRefused(t *testing.T, calls map[string]func(list []impl.Poly) (bool, int64)) {
+	t.Helper()
+	for name, call := range calls {
 		for _, list := range [][]impl.Poly{nil, {}, make([]impl.Poly, 0, 3)} {
 			zero, code := call(list)
 			wantZero(t, name+" of nothing", zero, code, impl.ErrRange)
-		}
-	}
-	for name, call := range generatingCalls(t) {
-		for why, list := range noPolyLists() {
-			zero, code := call(list)
-			wantZero(t, name+" of "+why, zero, code, impl.ErrInvalid)
-		}
-		for why, list := range noLists() {
-			zero, code := call(list)
-			wantZero(t, name+" of "+why, zero, code, impl.ErrRange)
 		}
 	}
 }
