@@ -214,3 +214,18 @@ func points(p int64, d int64) [][]int64 {
 	}
 	return list
 }
+
+// wantSameAtOnce asks from several goroutines at the same time, and wants the answer that there is before.
+func wantSameAtOnce(t *testing.T, ask func() string) {
+	t.Helper()
+	want := ask()
+	answers := make(chan string)
+	for range 16 {
+		go func() { answers <- ask() }()
+	}
+	for range 16 {
+		if got := <-answers; got != want {
+			t.Errorf("%s instead of %s", got, want)
+		}
+	}
+}

@@ -12,7 +12,7 @@ import (
 type spaceArguments struct {
 	g, trivial, modular impl.Group
 	list, one           []impl.Poly
-	f                   impl.Poly
+	f, letter, odd      impl.Poly
 	exps, row           []int64
 }
 
@@ -21,8 +21,8 @@ func newSpaceArguments(t *testing.T) *spaceArguments {
 		g.Elements = withSpare(g.Elements, markMatrix)
 		return g
 	}
-	spared := func(texts string) []impl.Poly {
-		list := splitPolys(t, 5, 2, texts)
+	spared := func(d int64, texts string) []impl.Poly {
+		list := splitPolys(t, 5, d, texts)
 		for i := range list {
 			list[i].Terms = withSpare(list[i].Terms, mark)
 		}
@@ -32,9 +32,11 @@ func newSpaceArguments(t *testing.T) *spaceArguments {
 		g:       guarded(named(t, "swap", 5)),
 		trivial: guarded(groupWith(5, 2, unitOf(2))),
 		modular: guarded(shears(5)),
-		list:    spared("1x+1y 1xy 1x+1y"),
-		one:     spared("1x2+1y2"),
-		f:       spared("1x2+1y2")[0],
+		list:    spared(2, "1x+1y 1xy 1x+1y"),
+		one:     spared(2, "1x2+1y2"),
+		f:       spared(2, "1x2+1y2")[0],
+		letter:  spared(1, "2x+3x2")[0],
+		odd:     spared(2, "1x2y+4xy2")[0],
 		exps:    withSpare([]int64{1, 1, 0}, 99),
 		row:     withSpare([]int64{1, 0, 1}, 99),
 	}
@@ -42,12 +44,14 @@ func newSpaceArguments(t *testing.T) *spaceArguments {
 
 // groups, polys and numbers list those of the arguments.
 func (a *spaceArguments) groups() []impl.Group { return []impl.Group{a.g, a.trivial, a.modular} }
-func (a *spaceArguments) polys() []impl.Poly   { return slices.Concat(a.list, a.one, []impl.Poly{a.f}) }
 func (a *spaceArguments) numbers() [][]int64   { return [][]int64{a.exps, a.row} }
+func (a *spaceArguments) polys() []impl.Poly {
+	return slices.Concat(a.list, a.one, []impl.Poly{a.f, a.letter, a.odd})
+}
 
 // text tells all of the arguments, with what is in the spare capacities.
 func (a *spaceArguments) text() string {
-	text := fmt.Sprint(a.groups(), whole(a.list), whole(a.one), a.f)
+	text := fmt.Sprint(a.groups(), whole(a.list), whole(a.one), a.f, a.letter, a.odd)
 	for _, g := range a.groups() {
 		text += fmt.Sprint(whole(g.Elements))
 	}

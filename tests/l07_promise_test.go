@@ -371,26 +371,15 @@ func TestCoinvariantsOfGenerators(t *testing.T) {
 	}
 }
 
-// TestParametersAtOnce asks from several goroutines at the same time: results depend on nothing but the
-// arguments.
+// TestParametersAtOnce asks from several goroutines: results depend on nothing but the arguments.
 func TestParametersAtOnce(t *testing.T) {
 	g := groupWith(13, 3, unitOf(3))
 	list := splitPolys(t, 13, 3, "1x3 1y3 1z3")
-	ask := func() string {
+	wantSameAtOnce(t, func() string {
 		all, a := impl.AllSecondaries(g, list)
 		degrees, b := impl.SecondaryDegrees(g, list)
 		numbers, c := impl.RestNumbers(list, impl.MaxBound)
 		coinvariant, d := impl.CoinvariantNumber(g, impl.MaxSpace)
 		return fmt.Sprint(all, a, degrees, b, numbers, c, coinvariant, d)
-	}
-	want := ask()
-	answers := make(chan string)
-	for range 16 {
-		go func() { answers <- ask() }()
-	}
-	for range 16 {
-		if got := <-answers; got != want {
-			t.Errorf("%s instead of %s", got, want)
-		}
-	}
+	})
 }
