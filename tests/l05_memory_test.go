@@ -13,7 +13,9 @@ type spaceArguments struct {
 	g, trivial, modular impl.Group
 	list, one           []impl.Poly
 	f, letter, odd      impl.Poly
-	exps, row           []int64
+	exps, row, counts   []int64
+	code, pair          impl.Code
+	rows                [][]int64
 }
 
 func newSpaceArguments(t *testing.T) *spaceArguments {
@@ -28,6 +30,12 @@ func newSpaceArguments(t *testing.T) *spaceArguments {
 		}
 		return withSpare(list, impl.Poly{Prime: 99})
 	}
+	sparedRows := func(rows ...[]int64) [][]int64 {
+		for i, row := range rows {
+			rows[i] = withSpare(row, 99)
+		}
+		return withSpare(rows, nil)
+	}
 	return &spaceArguments{
 		g:       guarded(named(t, "swap", 5)),
 		trivial: guarded(groupWith(5, 2, unitOf(2))),
@@ -39,21 +47,31 @@ func newSpaceArguments(t *testing.T) *spaceArguments {
 		odd:     spared(2, "1x2y+4xy2")[0],
 		exps:    withSpare([]int64{1, 1, 0}, 99),
 		row:     withSpare([]int64{1, 0, 1}, 99),
+		counts:  withSpare([]int64{1, 0, 0, 4}, 99),
+		code:    codeWith(5, 3, sparedRows([]int64{1, 0, 2}, []int64{0, 1, 3})...),
+		pair:    codeWith(5, 2, sparedRows([]int64{1, 2})...),
+		rows:    sparedRows([]int64{2, 0, 4}, []int64{0, 0, 0}, []int64{2, 1, 2}, []int64{0, 1, 3}),
 	}
 }
 
-// groups, polys and numbers list those of the arguments.
-func (a *spaceArguments) groups() []impl.Group { return []impl.Group{a.g, a.trivial, a.modular} }
-func (a *spaceArguments) numbers() [][]int64   { return [][]int64{a.exps, a.row} }
+// groups, polys, rowLists and numbers list those of the arguments.
+func (a *spaceArguments) groups() []impl.Group  { return []impl.Group{a.g, a.trivial, a.modular} }
+func (a *spaceArguments) rowLists() [][][]int64 { return [][][]int64{a.code.Rows, a.pair.Rows, a.rows} }
 func (a *spaceArguments) polys() []impl.Poly {
 	return slices.Concat(a.list, a.one, []impl.Poly{a.f, a.letter, a.odd})
+}
+func (a *spaceArguments) numbers() [][]int64 {
+	return append(slices.Concat(a.rowLists()...), a.exps, a.row, a.counts)
 }
 
 // text tells all of the arguments, with what is in the spare capacities.
 func (a *spaceArguments) text() string {
-	text := fmt.Sprint(a.groups(), whole(a.list), whole(a.one), a.f, a.letter, a.odd)
+	text := fmt.Sprint(a.groups(), whole(a.list), whole(a.one), a.f, a.letter, a.odd, a.code, a.pair, a.rows)
 	for _, g := range a.groups() {
 		text += fmt.Sprint(whole(g.Elements))
+	}
+	for _, rows := range a.rowLists() {
+		text += fmt.Sprint(whole(rows))
 	}
 	for _, f := range a.polys() {
 		text += fmt.Sprint(whole(f.Terms))
@@ -76,6 +94,9 @@ func (a *spaceArguments) spoil() {
 	overwrite(a.one, impl.Poly{})
 	for _, list := range a.numbers() {
 		overwrite(list, 77)
+	}
+	for _, rows := range a.rowLists() {
+		overwrite(rows, nil)
 	}
 }
 
